@@ -6,6 +6,7 @@ import (
 	"testing"
 
 	"quillward/api"
+	"quillward/sample"
 )
 
 // The slow functions follow the document's words, so that the fast ones can be
@@ -66,30 +67,6 @@ func compareWithSlow(t *testing.T, s string) {
 	if r, n, e := Root(s); e != api.OK || r != root || n != times {
 		t.Errorf("Root(%q) = %q, %v, %v; want %q, %v", s, r, n, e, root, times)
 	}
-}
-
-// allWords returns every word over the signs with at most n bytes.
-func allWords(signs string, n int) []string {
-	words := []string{""}
-	for from := 0; n > 0; n-- {
-		to := len(words)
-		for _, w := range words[from:to] {
-			for i := range len(signs) {
-				words = append(words, w+signs[i:i+1])
-			}
-		}
-		from = to
-	}
-	return words
-}
-
-// fibonacci returns a prefix of the Fibonacci word, which has many borders.
-func fibonacci(n int) string {
-	a, b := "a", "ab"
-	for len(b) < n {
-		a, b = b, b+a
-	}
-	return b[:n]
 }
 
 func TestCheckLengths(t *testing.T) { // P3
@@ -180,10 +157,10 @@ func TestRoot(t *testing.T) { // P6
 }
 
 func TestAllShortWords(t *testing.T) { // P1, P4, P5, P6
-	for _, s := range allWords("ab", 12) {
+	for _, s := range sample.Words("ab", 12) {
 		compareWithSlow(t, s)
 	}
-	for _, s := range allWords("\x00\x80\xff", 7) {
+	for _, s := range sample.Words("\x00\x80\xff", 7) {
 		compareWithSlow(t, s)
 	}
 }
@@ -193,7 +170,7 @@ func TestLongWords(t *testing.T) { // P1, P4, P5, P6
 		compareWithSlow(t, strings.Repeat("a", n))
 		compareWithSlow(t, strings.Repeat("ab", n)[:n])
 		compareWithSlow(t, strings.Repeat("aab", n)[:n])
-		compareWithSlow(t, fibonacci(n))
+		compareWithSlow(t, sample.Fibonacci(n))
 	}
 	for n := range api.MaxWord {
 		before := strings.Repeat("a", n)
@@ -231,18 +208,6 @@ func TestTooLarge(t *testing.T) { // P1, P2, P4, P5, P6
 	}
 }
 
-// claim overwrites a result together with its spare capacity.
-func claim(l []int, mark int) {
-	l = l[:cap(l)]
-	for i := range l {
-		l[i] = mark
-	}
-}
-
-func isClaimed(l []int, mark int) bool {
-	return !slices.ContainsFunc(l[:cap(l)], func(v int) bool { return v != mark })
-}
-
 func TestResultsAreNewMemory(t *testing.T) { // P2
 	s := strings.Repeat("abaab", 9)
 	var results [][]int
@@ -257,13 +222,11 @@ func TestResultsAreNewMemory(t *testing.T) { // P2
 			t.Errorf("result %d is %v after later calls; want %v", i, l, wants[i%2])
 		}
 	}
-	for i, l := range results {
-		claim(l, -1-i)
+	if !sample.Apart(results...) {
+		t.Error("results share memory")
 	}
-	for i, l := range results {
-		if !isClaimed(l, -1-i) {
-			t.Errorf("result %d shares memory with a later one", i)
-		}
+	for _, l := range results {
+		clear(l[:cap(l)])
 	}
 	compareWithSlow(t, s)
 }

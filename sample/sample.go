@@ -1,0 +1,43 @@
+// Package sample: inputs and a check that the tests of several packages share.
+package sample
+
+// Words returns every word over the signs with at most n bytes.
+func Words(signs string, n int) []string {
+	words := []string{""}
+	for from := 0; n > 0; n-- {
+		to := len(words)
+		for _, w := range words[from:to] {
+			for i := range len(signs) {
+				words = append(words, w+signs[i:i+1])
+			}
+		}
+		from = to
+	}
+	return words
+}
+
+// Fibonacci returns the first n bytes of the Fibonacci word, which has many
+// borders.
+func Fibonacci(n int) string {
+	a, b := "a", "ab"
+	for len(b) < n {
+		a, b = b, b+a
+	}
+	return b[:n]
+}
+
+// Apart says whether no two of the lists share memory, with their spare
+// capacity.
+func Apart[T any](lists ...[]T) bool {
+	seen := map[*T]bool{}
+	for _, l := range lists {
+		l = l[:cap(l)]
+		for i := range l {
+			if seen[&l[i]] {
+				return false
+			}
+			seen[&l[i]] = true
+		}
+	}
+	return true
+}

@@ -1,0 +1,35 @@
+package sample
+
+import (
+	"slices"
+	"testing"
+)
+
+func TestWords(t *testing.T) {
+	want := []string{"", "a", "b", "aa", "ab", "ba", "bb"}
+	if l := Words("ab", 2); !slices.Equal(l, want) {
+		t.Error(l)
+	}
+	if l := Words("ab", 0); !slices.Equal(l, []string{""}) {
+		t.Error(l)
+	}
+}
+
+func TestFibonacci(t *testing.T) {
+	if s := Fibonacci(11); s != "abaababaaba" {
+		t.Error(s)
+	}
+	if s := Fibonacci(0); s != "" {
+		t.Error(s)
+	}
+}
+
+func TestApart(t *testing.T) {
+	l := make([]int, 6)
+	if Apart(l[:2], l[1:]) || Apart(l[:2], l[4:]) || Apart(l, l[5:]) {
+		t.Error("shared memory was not seen")
+	}
+	if !Apart(l[:2:2], l[2:]) || !Apart(l, nil, make([]int, 6)) {
+		t.Error("separate memory was taken for shared")
+	}
+}
