@@ -26,6 +26,15 @@ func Fibonacci(n int) string {
 	return b[:n]
 }
 
+// Ramp returns n bytes that go up from first by step, and wrap around.
+func Ramp(first, step, n int) string {
+	text := make([]byte, n)
+	for i := range text {
+		text[i] = byte(first + step*i)
+	}
+	return string(text)
+}
+
 // Apart says whether no two of the lists share memory, with their spare
 // capacity.
 func Apart[T any](lists ...[]T) bool {

@@ -24,6 +24,18 @@ func TestFibonacci(t *testing.T) {
 	}
 }
 
+func TestRamp(t *testing.T) {
+	if s := Ramp(254, 1, 4); s != "\xfe\xff\x00\x01" {
+		t.Errorf("%q", s)
+	}
+	if s := Ramp(1, -1, 3); s != "\x01\x00\xff" {
+		t.Errorf("%q", s)
+	}
+	if s := Ramp(7, 1, 0); s != "" {
+		t.Errorf("%q", s)
+	}
+}
+
 func TestApart(t *testing.T) {
 	l := make([]int, 6)
 	if Apart(l[:2], l[1:]) || Apart(l[:2], l[4:]) || Apart(l, l[5:]) {

@@ -82,15 +82,6 @@ func compareWithSlow(t *testing.T, s string) {
 	}
 }
 
-// bytesFrom returns n bytes that go up from first by step, and wrap around.
-func bytesFrom(first, step, n int) string {
-	text := make([]byte, n)
-	for i := range text {
-		text[i] = byte(first + step*i)
-	}
-	return string(text)
-}
-
 func expectLarge(t *testing.T, s string) {
 	t.Helper()
 	if l, e := Order(s); e != api.ErrLarge || len(l) != 0 {
@@ -167,7 +158,7 @@ func TestUnlike(t *testing.T) { // P23
 		{"banana", 15},
 		{"mississippi", 53},
 		{strings.Repeat("a", api.MaxWord), 200},
-		{bytesFrom(0, 1, api.MaxWord), 20100},
+		{sample.Ramp(0, 1, api.MaxWord), 20100},
 	}
 	for _, c := range tests {
 		if n, e := Unlike(c.s); e != api.OK || n != c.want {
@@ -225,9 +216,9 @@ func TestLongWords(t *testing.T) { // P1, P21, P22, P23, P24
 		compareWithSlow(t, strings.Repeat("ab", n)[:n])
 		compareWithSlow(t, strings.Repeat("bba", n)[:n])
 		compareWithSlow(t, sample.Fibonacci(n))
-		compareWithSlow(t, bytesFrom(n, 1, n))
-		compareWithSlow(t, bytesFrom(n, -1, n))
-		compareWithSlow(t, bytesFrom(n, 64, n)+bytesFrom(n, 3, api.MaxWord-n))
+		compareWithSlow(t, sample.Ramp(n, 1, n))
+		compareWithSlow(t, sample.Ramp(n, -1, n))
+		compareWithSlow(t, sample.Ramp(n, 64, n)+sample.Ramp(n, 3, api.MaxWord-n))
 	}
 	for n := 0; n < api.MaxWord; n += 33 {
 		before := strings.Repeat("b", n)

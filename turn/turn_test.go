@@ -118,15 +118,6 @@ func compareWithSlow(t *testing.T, s string) {
 	}
 }
 
-// bytesFrom returns n bytes that go up from first by step, and wrap around.
-func bytesFrom(first, step, n int) string {
-	text := make([]byte, n)
-	for i := range text {
-		text[i] = byte(first + step*i)
-	}
-	return string(text)
-}
-
 // longWords returns words of every kind, with up to MaxWord bytes.
 func longWords() []string {
 	var words []string
@@ -137,9 +128,9 @@ func longWords() []string {
 			strings.Repeat("bba", n)[:n],
 			strings.Repeat("mississippi", n)[:n],
 			sample.Fibonacci(n),
-			bytesFrom(n, 1, n),
-			bytesFrom(n, -1, n),
-			bytesFrom(n, 64, n)+bytesFrom(n, 3, api.MaxWord-n))
+			sample.Ramp(n, 1, n),
+			sample.Ramp(n, -1, n),
+			sample.Ramp(n, 64, n)+sample.Ramp(n, 3, api.MaxWord-n))
 	}
 	for n := 0; n < api.MaxWord; n += 33 {
 		before := strings.Repeat("b", n)
@@ -226,7 +217,7 @@ func TestGetWrongForm(t *testing.T) { // P1, P2, P26
 		{"abc", 0},
 		{"banana", 3},
 		{"aab", 2},
-		{bytesFrom(0, 1, api.MaxWord), 0},
+		{sample.Ramp(0, 1, api.MaxWord), 0},
 		{strings.Repeat("a", api.MaxWord-1) + "b", 7},
 		// There is a string with this transform, but the rotation with this
 		// index equals an earlier one, whose index Put returns.
