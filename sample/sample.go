@@ -1,6 +1,8 @@
 // Package sample: inputs and a check that the tests of several packages share.
 package sample
 
+import "slices"
+
 // Words returns every word over the signs with at most n bytes.
 func Words(signs string, n int) []string {
 	words := []string{""}
@@ -14,6 +16,24 @@ func Words(signs string, n int) []string {
 		from = to
 	}
 	return words
+}
+
+// Lists returns every list of at most n of the words, in every order, with no
+// word twice.
+func Lists(words []string, n int) [][]string {
+	lists := [][]string{nil}
+	for from := 0; n > 0; n-- {
+		to := len(lists)
+		for _, l := range lists[from:to] {
+			for _, w := range words {
+				if !slices.Contains(l, w) {
+					lists = append(lists, append(slices.Clone(l), w))
+				}
+			}
+		}
+		from = to
+	}
+	return lists
 }
 
 // Fibonacci returns the first n bytes of the Fibonacci word, which has many

@@ -15,6 +15,18 @@ func TestWords(t *testing.T) {
 	}
 }
 
+func TestLists(t *testing.T) {
+	want := [][]string{nil, {"a"}, {"b"}, {"a", "b"}, {"b", "a"}}
+	for _, n := range []int{2, 3} {
+		if l := Lists([]string{"a", "b"}, n); !slices.EqualFunc(l, want, slices.Equal) {
+			t.Errorf("%q", l)
+		}
+	}
+	if l := Lists([]string{"a", "b"}, 0); !slices.EqualFunc(l, want[:1], slices.Equal) {
+		t.Errorf("%q", l)
+	}
+}
+
 func TestFibonacci(t *testing.T) {
 	if s := Fibonacci(11); s != "abaababaaba" {
 		t.Error(s)

@@ -76,23 +76,6 @@ func numbered(n int) []string {
 	return pats
 }
 
-// subsets returns every list of at most n of the words, in every order.
-func subsets(words []string, n int) [][]string {
-	lists := [][]string{nil}
-	for from := 0; n > 0; n-- {
-		to := len(lists)
-		for _, l := range lists[from:to] {
-			for _, w := range words {
-				if !slices.Contains(l, w) {
-					lists = append(lists, append(slices.Clone(l), w))
-				}
-			}
-		}
-		from = to
-	}
-	return lists
-}
-
 func TestCheck(t *testing.T) { // P10
 	longest := strings.Repeat("a", api.MaxPat)
 	for _, pats := range [][]string{
@@ -220,7 +203,7 @@ func TestFronts(t *testing.T) { // P12
 func TestAllShortPatterns(t *testing.T) { // P1, P11, P12
 	for _, signs := range []string{"ab", "\x00\xff"} {
 		texts := append(sample.Words(signs, 3), strings.Repeat(signs, 3)+signs[1:]+signs)
-		for _, pats := range subsets(sample.Words(signs, 3)[1:], 3) {
+		for _, pats := range sample.Lists(sample.Words(signs, 3)[1:], 3) {
 			for _, s := range texts {
 				compareFind(t, s, pats)
 				compareFronts(t, pats, s)
