@@ -210,21 +210,6 @@ func numbered(n int) []string {
 	return words[len(words)-32:][:n]
 }
 
-// allLens returns every list of at most n lengths from 1 to most.
-func allLens(most, n int) [][]int {
-	lists := [][]int{nil}
-	for from := 0; n > 0; n-- {
-		to := len(lists)
-		for _, l := range lists[from:to] {
-			for k := 1; k <= most; k++ {
-				lists = append(lists, append(slices.Clone(l), k))
-			}
-		}
-		from = to
-	}
-	return lists
-}
-
 // longLens returns lists with MaxCodes lengths that just make a code, most of
 // them with long words.
 func longLens() [][]int {
@@ -628,7 +613,7 @@ func TestMakeNone(t *testing.T) { // P1, P2, P35
 }
 
 func TestAllLens(t *testing.T) { // P1, P34, P35
-	for _, lens := range slices.Concat(allLens(4, 6), allLens(7, 3), allLens(api.MaxBits, 2)) {
+	for _, lens := range slices.Concat(sample.Numbers(4, 6), sample.Numbers(7, 3), sample.Numbers(api.MaxBits, 2)) {
 		compareLens(t, lens)
 	}
 }

@@ -36,6 +36,21 @@ func Lists(words []string, n int) [][]string {
 	return lists
 }
 
+// Numbers returns every list of at most n numbers from 1 to most.
+func Numbers(most, n int) [][]int {
+	lists := [][]int{nil}
+	for from := 0; n > 0; n-- {
+		to := len(lists)
+		for _, l := range lists[from:to] {
+			for k := 1; k <= most; k++ {
+				lists = append(lists, append(slices.Clone(l), k))
+			}
+		}
+		from = to
+	}
+	return lists
+}
+
 // Fibonacci returns the first n bytes of the Fibonacci word, which has many
 // borders.
 func Fibonacci(n int) string {

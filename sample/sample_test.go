@@ -27,6 +27,16 @@ func TestLists(t *testing.T) {
 	}
 }
 
+func TestNumbers(t *testing.T) {
+	want := [][]int{nil, {1}, {2}, {1, 1}, {1, 2}, {2, 1}, {2, 2}}
+	if l := Numbers(2, 2); !slices.EqualFunc(l, want, slices.Equal) {
+		t.Error(l)
+	}
+	if l := Numbers(2, 0); !slices.EqualFunc(l, want[:1], slices.Equal) {
+		t.Error(l)
+	}
+}
+
 func TestFibonacci(t *testing.T) {
 	if s := Fibonacci(11); s != "abaababaaba" {
 		t.Error(s)
