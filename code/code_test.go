@@ -204,29 +204,6 @@ func expectLensError(t *testing.T, lens []int, want api.Errno) {
 	}
 }
 
-// numbered returns n different code words with 5 bits.
-func numbered(n int) []string {
-	words := sample.Words("01", 5)
-	return words[len(words)-32:][:n]
-}
-
-// longLens returns lists with MaxCodes lengths that just make a code, most of
-// them with long words.
-func longLens() [][]int {
-	return [][]int{
-		{1, 2, 3, 4, 5, 6, 7, 8, 9, 10, 11, 12},
-		{1, 2, 3, 4, 5, 6, 7, 8, 9, 10, 11, 11},
-		{2, 3, 4, 5, 6, 7, 8, 9, 10, 11, 12, 12},
-		{12, 1, 12, 2, 11, 3, 10, 4, 9, 5, 8, 6},
-		{3, 3, 3, 3, 4, 4, 4, 4, 4, 4, 4, 4},
-		{4, 4, 4, 4, 3, 3, 3, 3, 4, 4, 4, 4},
-		{2, 5, 2, 5, 2, 5, 5, 6, 6, 6, 7, 7},
-		{12, 12, 12, 12, 12, 12, 12, 12, 12, 12, 12, 12},
-		{12, 11, 10, 9, 8, 7, 6, 5, 4, 3, 2, 12},
-		{6, 12, 6, 12, 6, 12, 6, 12, 6, 12, 6, 12},
-	}
-}
-
 func reversed(s string) string {
 	text := []byte(s)
 	slices.Reverse(text)
@@ -262,7 +239,7 @@ func TestCheck(t *testing.T) { // P31
 		{"01", "0"},
 		{longest},
 		{longest, longest[1:], longest[1:] + "1"},
-		numbered(api.MaxCodes),
+		sample.Bits(api.MaxCodes),
 	} {
 		if e := Check(l); e != api.OK {
 			t.Errorf("Check(%q) = %v", l, e)
@@ -316,7 +293,7 @@ func TestErrors(t *testing.T) { // P1, P2, P31, P32, P33
 		{[]string{"0", "0", "2"}, api.ErrThere},
 		{[]string{"0", "2", "0"}, api.ErrForm},
 		// The number of code words comes before any of them.
-		{numbered(api.MaxCodes + 1), api.ErrLarge},
+		{sample.Bits(api.MaxCodes + 1), api.ErrLarge},
 		{make([]string, api.MaxCodes), api.ErrEmpty},
 		{make([]string, api.MaxCodes+1), api.ErrLarge},
 		{slices.Repeat([]string{"2"}, api.MaxCodes), api.ErrForm},
@@ -324,10 +301,10 @@ func TestErrors(t *testing.T) { // P1, P2, P31, P32, P33
 		{slices.Repeat([]string{"0"}, api.MaxCodes), api.ErrThere},
 		{slices.Repeat([]string{"0"}, api.MaxCodes+1), api.ErrLarge},
 		{make([]string, 1<<20), api.ErrLarge},
-		{append(numbered(api.MaxCodes-1), numbered(1)...), api.ErrThere},
-		{append(numbered(api.MaxCodes-1), ""), api.ErrEmpty},
-		{append(numbered(api.MaxCodes-1), "2"), api.ErrForm},
-		{append(numbered(api.MaxCodes-1), large), api.ErrLarge},
+		{append(sample.Bits(api.MaxCodes-1), sample.Bits(1)...), api.ErrThere},
+		{append(sample.Bits(api.MaxCodes-1), ""), api.ErrEmpty},
+		{append(sample.Bits(api.MaxCodes-1), "2"), api.ErrForm},
+		{append(sample.Bits(api.MaxCodes-1), large), api.ErrLarge},
 		// A code that is not prefix-free or not uniquely decodable for its
 		// first words is checked to its end.
 		{[]string{"0", "00", "2"}, api.ErrForm},
@@ -371,9 +348,9 @@ func TestFront(t *testing.T) { // P32
 		{[]string{"1", "01"}, true},
 		{[]string{"01", "1"}, true},
 		{[]string{"10", "0100"}, true},
-		{numbered(api.MaxCodes), true},
-		{append(numbered(api.MaxCodes-1), "0"), false},
-		{append([]string{"1"}, numbered(api.MaxCodes-1)...), true},
+		{sample.Bits(api.MaxCodes), true},
+		{append(sample.Bits(api.MaxCodes-1), "0"), false},
+		{append([]string{"1"}, sample.Bits(api.MaxCodes-1)...), true},
 	}
 	for _, c := range tests {
 		wantFront(t, c.l, c.want)
@@ -414,7 +391,7 @@ func TestSole(t *testing.T) { // P33
 		// Only after 132 bits both have the same length.
 		{[]string{zeros, zeros[1:]}, false},
 		{[]string{zeros[5:], zeros[1:]}, false},
-		{numbered(api.MaxCodes), true},
+		{sample.Bits(api.MaxCodes), true},
 	}
 	for _, c := range tests {
 		wantSole(t, c.l, c.want)
@@ -467,7 +444,7 @@ func TestAllPairs(t *testing.T) { // P1, P32, P33
 // prefix-free. With one bit turned over it may be anything.
 func TestLongCodes(t *testing.T) { // P1, P32, P33
 	found := map[bool]int{}
-	for _, lens := range longLens() {
+	for _, lens := range sample.Lengths() {
 		l := slowMake(lens)
 		wantFront(t, l, true)
 		wantSole(t, l, true)
@@ -619,7 +596,7 @@ func TestAllLens(t *testing.T) { // P1, P34, P35
 }
 
 func TestLongLens(t *testing.T) { // P1, P34, P35
-	for _, lens := range longLens() {
+	for _, lens := range sample.Lengths() {
 		for n := range len(lens) + 1 {
 			compareLens(t, lens[:n])
 			compareLens(t, lens[n:])

@@ -51,6 +51,41 @@ func Numbers(most, n int) [][]int {
 	return lists
 }
 
+// Scattered returns n numbers from low to high in no particular order, other
+// ones for each seed.
+func Scattered(seed, n, low, high int) []int {
+	numbers := make([]int, n)
+	x := seed*7919 + 1
+	for i := range numbers {
+		x = (x*1103515245 + 12345) % (1 << 31)
+		numbers[i] = low + x>>8%(high-low+1)
+	}
+	return numbers
+}
+
+// Bits returns n different words with 5 bits, of which there are 32.
+func Bits(n int) []string {
+	words := Words("01", 5)
+	return words[len(words)-32:][:n]
+}
+
+// Lengths returns lists with 12 lengths of code words for which there is a
+// prefix-free code, most of them with long words.
+func Lengths() [][]int {
+	return [][]int{
+		{1, 2, 3, 4, 5, 6, 7, 8, 9, 10, 11, 12},
+		{1, 2, 3, 4, 5, 6, 7, 8, 9, 10, 11, 11},
+		{2, 3, 4, 5, 6, 7, 8, 9, 10, 11, 12, 12},
+		{12, 1, 12, 2, 11, 3, 10, 4, 9, 5, 8, 6},
+		{3, 3, 3, 3, 4, 4, 4, 4, 4, 4, 4, 4},
+		{4, 4, 4, 4, 3, 3, 3, 3, 4, 4, 4, 4},
+		{2, 5, 2, 5, 2, 5, 5, 6, 6, 6, 7, 7},
+		{12, 12, 12, 12, 12, 12, 12, 12, 12, 12, 12, 12},
+		{12, 11, 10, 9, 8, 7, 6, 5, 4, 3, 2, 12},
+		{6, 12, 6, 12, 6, 12, 6, 12, 6, 12, 6, 12},
+	}
+}
+
 // Fibonacci returns the first n bytes of the Fibonacci word, which has many
 // borders.
 func Fibonacci(n int) string {

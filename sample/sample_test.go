@@ -37,6 +37,44 @@ func TestNumbers(t *testing.T) {
 	}
 }
 
+func TestScattered(t *testing.T) {
+	l := Scattered(3, 100, -1, 2)
+	if len(l) != 100 || slices.Min(l) != -1 || slices.Max(l) != 2 {
+		t.Error(l)
+	}
+	if !slices.Equal(l, Scattered(3, 100, -1, 2)) || slices.Equal(l, Scattered(4, 100, -1, 2)) {
+		t.Error("the numbers do not depend on the seed alone")
+	}
+	if l := Scattered(0, 0, 1, 1); len(l) != 0 {
+		t.Error(l)
+	}
+}
+
+func TestBits(t *testing.T) {
+	want := []string{"00000", "00001", "00010"}
+	if l := Bits(3); !slices.Equal(l, want) {
+		t.Error(l)
+	}
+	if l := Bits(32); len(l) != 32 || l[31] != "11111" {
+		t.Error(l)
+	}
+	if l := Bits(0); len(l) != 0 {
+		t.Error(l)
+	}
+}
+
+func TestLengths(t *testing.T) {
+	for _, lens := range Lengths() {
+		sum := 0
+		for _, n := range lens {
+			sum += 4096 >> n
+		}
+		if len(lens) != 12 || slices.Min(lens) < 1 || slices.Max(lens) > 12 || sum > 4096 {
+			t.Error(lens)
+		}
+	}
+}
+
 func TestFibonacci(t *testing.T) {
 	if s := Fibonacci(11); s != "abaababaaba" {
 		t.Error(s)

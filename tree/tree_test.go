@@ -149,18 +149,6 @@ func growing(n, percent int) []int {
 	return weights
 }
 
-// scattered returns n weights up to most in no particular order, other ones for
-// each seed.
-func scattered(seed, n, most int) []int {
-	weights := make([]int, n)
-	x := seed*7919 + 1
-	for i := range weights {
-		x = (x*1103515245 + 12345) % (1 << 31)
-		weights[i] = x>>8%most + 1
-	}
-	return weights
-}
-
 // manyWeights returns lists of weights of every length, with small and great,
 // like and unlike weights.
 func manyWeights() [][]int {
@@ -171,7 +159,7 @@ func manyWeights() [][]int {
 			lists = append(lists, growing(n, percent))
 		}
 		for seed, most := range []int{2, 3, 5, 10, 30, 100, 1000, api.MaxWeight} {
-			lists = append(lists, scattered(seed, n, most))
+			lists = append(lists, sample.Scattered(seed, n, 1, most))
 		}
 	}
 	return lists
@@ -265,7 +253,7 @@ func TestCost(t *testing.T) { // P38
 	}
 	for _, weights := range manyWeights() {
 		for seed := range 5 {
-			lens := scattered(seed, len(weights), api.MaxBits)
+			lens := sample.Scattered(seed, len(weights), 1, api.MaxBits)
 			wantCost(t, weights, lens, slowCost(weights, lens))
 		}
 	}
