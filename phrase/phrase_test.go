@@ -147,15 +147,6 @@ func outside(i int) []int {
 	}
 }
 
-// scatteredWord returns n bytes of so many kinds in no particular order.
-func scatteredWord(seed, n, signs int) string {
-	var text []byte
-	for _, b := range sample.Scattered(seed, n, 0, signs-1) {
-		text = append(text, byte(b))
-	}
-	return string(text)
-}
-
 // shortLists returns every list of at most n phrases with a few bytes and
 // numbers, some of them out of range.
 func shortLists(n int) [][]api.Phrase {
@@ -344,7 +335,7 @@ func TestLongWords(t *testing.T) { // P1, P43, P44
 		compareRoundTrip(t, sample.Ramp(n, 1, n))
 		compareRoundTrip(t, sample.Ramp(n, 64, n)+sample.Ramp(n, 3, api.MaxWord-n))
 		for signs := 2; signs <= 16; signs *= 2 {
-			compareRoundTrip(t, scatteredWord(n+signs, n, signs))
+			compareRoundTrip(t, sample.ScatteredWord(n+signs, n, signs))
 		}
 	}
 }
@@ -368,8 +359,8 @@ func TestLongLists(t *testing.T) { // P1, P2, P44
 				numbers[i] = i + 1
 			}
 		}
-		l := phrases(scatteredWord(seed+1, n, 256), numbers...)
-		rest := scatteredWord(seed+2, seed%37, 256)
+		l := phrases(sample.ScatteredWord(seed+1, n, 256), numbers...)
+		rest := sample.ScatteredWord(seed+2, seed%37, 256)
 		_, e := slowGet(l, rest)
 		seen[e]++
 		compareGet(t, l, rest)

@@ -63,6 +63,16 @@ func Scattered(seed, n, low, high int) []int {
 	return numbers
 }
 
+// ScatteredWord returns n bytes of so many kinds in no particular order, other
+// ones for each seed.
+func ScatteredWord(seed, n, signs int) string {
+	text := make([]byte, n)
+	for i, b := range Scattered(seed, n, 0, signs-1) {
+		text[i] = byte(b)
+	}
+	return string(text)
+}
+
 // Bits returns n different words with 5 bits, of which there are 32.
 func Bits(n int) []string {
 	words := Words("01", 5)

@@ -2,6 +2,7 @@ package sample
 
 import (
 	"slices"
+	"strings"
 	"testing"
 )
 
@@ -47,6 +48,22 @@ func TestScattered(t *testing.T) {
 	}
 	if l := Scattered(0, 0, 1, 1); len(l) != 0 {
 		t.Error(l)
+	}
+}
+
+func TestScatteredWord(t *testing.T) {
+	s := ScatteredWord(3, 100, 4)
+	if len(s) != 100 || strings.Trim(s, "\x00\x01\x02\x03") != "" || strings.Trim(s, "\x00\x01\x02") == "" {
+		t.Errorf("%q", s)
+	}
+	if s := ScatteredWord(3, 5000, 256); strings.IndexByte(s, 0xff) < 0 || strings.IndexByte(s, 0) < 0 {
+		t.Errorf("%q", s)
+	}
+	if s != ScatteredWord(3, 100, 4) || s == ScatteredWord(4, 100, 4) {
+		t.Error("the word does not depend on the seed alone")
+	}
+	if s := ScatteredWord(0, 0, 1); s != "" {
+		t.Errorf("%q", s)
 	}
 }
 
