@@ -147,23 +147,6 @@ func upTo(n int) []int {
 	return l
 }
 
-// longWords returns words with n bytes, of which some have much in common.
-func longWords(n int) []string {
-	return []string{
-		strings.Repeat("a", n),
-		strings.Repeat("ab", n)[:n],
-		strings.Repeat("ba", n)[:n],
-		strings.Repeat("mississippi", n)[:n],
-		sample.Fibonacci(n),
-		sample.Ramp(n, 1, n),
-		sample.Ramp(n, -3, n),
-		sample.ScatteredWord(n, n, 2),
-		sample.ScatteredWord(n+1, n, 2),
-		sample.ScatteredWord(n, n, 16),
-		sample.ScatteredWord(n+1, n, 256),
-	}
-}
-
 func TestCheck(t *testing.T) { // P49
 	full := strings.Repeat("a", api.MaxWord)
 	for _, s := range []string{"", "a", "\x00\xff", full[1:], full, strings.Repeat("é", api.MaxWord/2)} {
@@ -289,8 +272,8 @@ func TestLongWords(t *testing.T) { // P1, P49, P50, P51
 	for _, sizes := range [][2]int{
 		{api.MaxWord, api.MaxWord}, {api.MaxWord, 101}, {64, api.MaxWord}, {37, 41}, {1, api.MaxWord}, {0, api.MaxWord},
 	} {
-		for _, a := range longWords(sizes[0]) {
-			for _, b := range longWords(sizes[1]) {
+		for _, a := range sample.LongWords(sizes[0]) {
+			for _, b := range sample.LongWords(sizes[1]) {
 				compare(t, a, b)
 			}
 		}
@@ -370,7 +353,7 @@ func TestResultsAreNewMemory(t *testing.T) { // P2
 
 // Which longest common subsequence it is may be chosen, but not anew each time.
 func TestSamePlacesAgain(t *testing.T) { // P2, P50
-	words := slices.Concat(sample.Words("ab", 4), longWords(50))
+	words := slices.Concat(sample.Words("ab", 4), sample.LongWords(50))
 	type pair struct{ a, b string }
 	type result struct{ x, y []int }
 	first := map[pair]result{}

@@ -1,7 +1,10 @@
 // Package sample: inputs and a check that the tests of several packages share.
 package sample
 
-import "slices"
+import (
+	"slices"
+	"strings"
+)
 
 // Words returns every word over the signs with at most n bytes.
 func Words(signs string, n int) []string {
@@ -113,6 +116,23 @@ func Ramp(first, step, n int) string {
 		text[i] = byte(first + step*i)
 	}
 	return string(text)
+}
+
+// LongWords returns words with n bytes, of which some have much in common.
+func LongWords(n int) []string {
+	return []string{
+		strings.Repeat("a", n),
+		strings.Repeat("ab", n)[:n],
+		strings.Repeat("ba", n)[:n],
+		strings.Repeat("mississippi", n)[:n],
+		Fibonacci(n),
+		Ramp(n, 1, n),
+		Ramp(n, -3, n),
+		ScatteredWord(n, n, 2),
+		ScatteredWord(n+1, n, 2),
+		ScatteredWord(n, n, 16),
+		ScatteredWord(n+1, n, 256),
+	}
 }
 
 // Apart says whether no two of the lists share memory, with their spare

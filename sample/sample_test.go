@@ -113,6 +113,21 @@ func TestRamp(t *testing.T) {
 	}
 }
 
+func TestLongWords(t *testing.T) {
+	for _, n := range []int{0, 1, 37, 200} {
+		for _, s := range LongWords(n) {
+			if len(s) != n {
+				t.Errorf("%q has not %d bytes", s, n)
+			}
+		}
+	}
+	l := LongWords(200)
+	slices.Sort(l)
+	if len(slices.Compact(l)) != 11 {
+		t.Error("some words are equal")
+	}
+}
+
 func TestApart(t *testing.T) {
 	l := make([]int, 6)
 	if Apart(l[:2], l[1:]) || Apart(l[:2], l[4:]) || Apart(l, l[5:]) {
