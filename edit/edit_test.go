@@ -187,43 +187,6 @@ func compareOf(t *testing.T, s, r string) {
 	}
 }
 
-// scripts returns every script for n bytes that begins at from or later and
-// inserts nothing but the inks.
-func scripts(from, n int, inks []string) [][]api.Edit {
-	found := [][]api.Edit{nil}
-	for at := from; at <= n; at++ {
-		for end := at; end <= n; end++ {
-			rest := scripts(end+1, n, inks)
-			for _, ink := range inks {
-				if at == end && ink == "" {
-					continue
-				}
-				for _, l := range rest {
-					found = append(found, append([]api.Edit{{At: at, Del: end - at, Ins: ink}}, l...))
-				}
-			}
-		}
-	}
-	return found
-}
-
-// scatteredScript returns as many edits as there may be if they end before n,
-// other ones for each seed. The text after them may be too long.
-func scatteredScript(seed, n, far, ink int) []api.Edit {
-	var l []api.Edit
-	numbers := sample.Scattered(seed, 3*api.MaxEdits, 0, math.MaxInt32)
-	at := numbers[0] % far
-	for ; len(l) < api.MaxEdits && at < n; numbers = numbers[3:] {
-		x := api.Edit{At: at, Del: min(numbers[0]%far, n-at), Ins: sample.Ramp(200+at, 1, numbers[1]%ink)}
-		if x.Del == 0 && x.Ins == "" {
-			x.Del = 1
-		}
-		l = append(l, x)
-		at = x.At + x.Del + 1 + numbers[2]%far
-	}
-	return l
-}
-
 // insertions returns k edits of which each inserts so many bytes.
 func insertions(k, bytes int) []api.Edit {
 	var l []api.Edit
@@ -587,7 +550,7 @@ func TestFull(t *testing.T) { // P1, P55 to P58
 
 func TestAllShortScripts(t *testing.T) { // P55 to P58
 	for n := range 6 {
-		for _, l := range scripts(0, n, []string{"", "x", "abc"}) {
+		for _, l := range sample.Scripts(0, n, []string{"", "x", "abc"}) {
 			if e := slowCheck(n, l); e != api.OK {
 				t.Fatalf("%#v is no script for %v bytes: %v", l, n, e)
 			}
@@ -622,7 +585,7 @@ func TestLongScripts(t *testing.T) { // P55 to P58
 	seen := map[api.Errno]int{}
 	for seed := range 400 {
 		n := 200 - seed%5*40
-		l := scatteredScript(seed, n, 1+seed%13, 2+seed%11)
+		l := sample.ScatteredScript(seed, n, 1+seed%13, 2+seed%11)
 		compare(t, sample.ScatteredWord(seed, n, 256), l)
 		seen[slowCheck(n, l)]++
 	}

@@ -2,8 +2,11 @@
 package sample
 
 import (
+	"math"
 	"slices"
 	"strings"
+
+	"quillward/api"
 )
 
 // Words returns every word over the signs with at most n bytes.
@@ -133,6 +136,43 @@ func LongWords(n int) []string {
 		ScatteredWord(n, n, 16),
 		ScatteredWord(n+1, n, 256),
 	}
+}
+
+// Scripts returns every script for n bytes that begins at from or later and
+// inserts nothing but the inks.
+func Scripts(from, n int, inks []string) [][]api.Edit {
+	found := [][]api.Edit{nil}
+	for at := from; at <= n; at++ {
+		for end := at; end <= n; end++ {
+			rest := Scripts(end+1, n, inks)
+			for _, ink := range inks {
+				if at == end && ink == "" {
+					continue
+				}
+				for _, l := range rest {
+					found = append(found, append([]api.Edit{{At: at, Del: end - at, Ins: ink}}, l...))
+				}
+			}
+		}
+	}
+	return found
+}
+
+// ScatteredScript returns as many edits as there may be if they end before n,
+// other ones for each seed. The text after them may be too long.
+func ScatteredScript(seed, n, far, ink int) []api.Edit {
+	var l []api.Edit
+	numbers := Scattered(seed, 3*api.MaxEdits, 0, math.MaxInt32)
+	at := numbers[0] % far
+	for ; len(l) < api.MaxEdits && at < n; numbers = numbers[3:] {
+		x := api.Edit{At: at, Del: min(numbers[0]%far, n-at), Ins: Ramp(200+at, 1, numbers[1]%ink)}
+		if x.Del == 0 && x.Ins == "" {
+			x.Del = 1
+		}
+		l = append(l, x)
+		at = x.At + x.Del + 1 + numbers[2]%far
+	}
+	return l
 }
 
 // Apart says whether no two of the lists share memory, with their spare

@@ -4,6 +4,8 @@ import (
 	"slices"
 	"strings"
 	"testing"
+
+	"quillward/api"
 )
 
 func TestWords(t *testing.T) {
@@ -125,6 +127,44 @@ func TestLongWords(t *testing.T) {
 	slices.Sort(l)
 	if len(slices.Compact(l)) != 11 {
 		t.Error("some words are equal")
+	}
+}
+
+func TestScripts(t *testing.T) {
+	want := [][]api.Edit{
+		nil,
+		{{Ins: "x"}},
+		{{Ins: "x"}, {At: 1, Ins: "x"}},
+		{{Del: 1}},
+		{{Del: 1, Ins: "x"}},
+		{{At: 1, Ins: "x"}},
+	}
+	if l := Scripts(0, 1, []string{"", "x"}); !slices.EqualFunc(l, want, slices.Equal) {
+		t.Errorf("%#v", l)
+	}
+	if l := Scripts(1, 1, []string{"", "x"}); !slices.EqualFunc(l, [][]api.Edit{nil, want[5]}, slices.Equal) {
+		t.Errorf("%#v", l)
+	}
+}
+
+func TestScatteredScript(t *testing.T) {
+	for seed := range 100 {
+		l := ScatteredScript(seed, 100, 10, 5)
+		for i, x := range l {
+			if x.At < 0 || x.Del < 0 || x.At+x.Del > 100 || len(x.Ins) >= 5 || x.Del == 0 && x.Ins == "" {
+				t.Errorf("%#v has a wrong edit %d", l, i)
+			}
+			if i > 0 && x.At <= l[i-1].At+l[i-1].Del {
+				t.Errorf("%#v has edits that touch", l)
+			}
+		}
+		if len(l) < 2 || len(l) > api.MaxEdits {
+			t.Errorf("%#v has %d edits", l, len(l))
+		}
+	}
+	l := ScatteredScript(3, 200, 5, 4)
+	if !slices.Equal(l, ScatteredScript(3, 200, 5, 4)) || slices.Equal(l, ScatteredScript(4, 200, 5, 4)) {
+		t.Error("the script does not depend on the seed alone")
 	}
 }
 
